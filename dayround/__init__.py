@@ -1,0 +1,1 @@
+"""Days, months, weeks and what comes round again."""
