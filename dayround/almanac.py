@@ -29,8 +29,12 @@ def month_length(year, month):
     return MONTH_LENGTHS[month - 1]
 
 
+def is_year(year):
+    return year >= FIRST_YEAR and year <= LAST_YEAR
+
+
 def is_date(year, month, day_of_month):
-    if year < FIRST_YEAR or year > LAST_YEAR:
+    if not is_year(year):
         return False
     if month < 1 or month > 12:
         return False

@@ -1,0 +1,74 @@
+"""What holds of the answers of every call."""
+
+import contextlib
+import io
+import unittest
+
+from dayround.desk import civil, day, from_week, week
+
+FIRST = -365961662
+LAST = 364522971
+
+CALLS = (
+    (day, (1970, 1, 1)), (day, (-1, 12, 31)), (day, (-999999, 1, 1)), (day, (999999, 12, 31)),
+    (day, (1900, 2, 29)), (day, (1970, 13, 1)), (day, (2147483647, -2147483648, 0)),
+    (civil, (0,)), (civil, (-719529,)), (civil, (FIRST,)), (civil, (LAST,)),
+    (civil, (FIRST - 1,)), (civil, (LAST + 1,)), (civil, (9223372036854775807,)),
+    (week, (0,)), (week, (-719891,)), (week, (20819,)), (week, (FIRST,)), (week, (LAST,)),
+    (week, (FIRST - 1,)), (week, (LAST + 1,)), (week, (-9223372036854775808,)),
+    (from_week, (1970, 1, 4)), (from_week, (-2, 53, 7)), (from_week, (-999999, 1, 1)), (from_week, (999999, 52, 5)),
+    (from_week, (999999, 52, 6)), (from_week, (2025, 53, 1)), (from_week, (2026, 1, 8)),
+    (from_week, (2147483647, 1, -2147483648)),
+)
+LENGTHS = {day: 2, civil: 4, week: 4, from_week: 2}
+REFUSALS = {day: (-1,), civil: (-1,), week: (-1,), from_week: (-1,)}
+
+
+class TheAnswers(unittest.TestCase):
+    def test_lists_of_whole_numbers(self):
+        for function, arguments in CALLS:
+            with self.subTest(function=function.__name__, arguments=arguments):
+                answer = function(*arguments)
+                self.assertIs(type(answer), list)
+                self.assertTrue(all(type(number) is int for number in answer))
+                if answer[0] == 0:
+                    self.assertEqual(len(answer), LENGTHS[function])
+                else:
+                    self.assertEqual(len(answer), 1)
+                    self.assertIn(answer[0], REFUSALS[function])
+
+    def test_the_same_call_twice_answers_the_same(self):
+        for function, arguments in CALLS:
+            with self.subTest(function=function.__name__, arguments=arguments):
+                self.assertEqual(function(*arguments), function(*arguments))
+
+    def test_other_calls_between_change_nothing(self):
+        before = [function(*arguments) for function, arguments in CALLS]
+        after = [function(*arguments) for function, arguments in reversed(CALLS)]
+        self.assertEqual(before, after[::-1])
+
+    def test_an_answer_changed_by_the_caller_is_not_given_again(self):
+        for function, arguments in CALLS:
+            with self.subTest(function=function.__name__, arguments=arguments):
+                answer = function(*arguments)
+                kept = list(answer)
+                answer.append(7)
+                answer[0] = 7
+                self.assertEqual(function(*arguments), kept)
+
+    def test_nothing_is_printed(self):
+        printed = io.StringIO()
+        with contextlib.redirect_stdout(printed), contextlib.redirect_stderr(printed):
+            for function, arguments in CALLS:
+                function(*arguments)
+        self.assertEqual(printed.getvalue(), "")
+
+    def test_arguments_go_by_the_names_of_the_interface(self):
+        self.assertEqual(day(y=2000, m=2, d=29), [0, 11016])
+        self.assertEqual(civil(day=11016), [0, 2000, 2, 29])
+        self.assertEqual(week(day=11016), [0, 2000, 9, 2])
+        self.assertEqual(from_week(y=2000, w=9, wd=2), [0, 11016])
+
+
+if __name__ == "__main__":
+    unittest.main()
