@@ -1,10 +1,12 @@
 """The calls: each takes its arguments and gives back a list of whole numbers, a refusal's number alone."""
 
 from dayround.almanac import first_of_month, is_date, is_day, month_of, year_of
+from dayround.months import LAST_OF_MONTH, MONTHS_IN_YEAR, REFUSED, has_place, is_move, is_rule, moved, whole_months
 from dayround.weeks import day_of_week, day_of_week_date, is_week_date, week_of_year, year_of_week
 
 DONE = 0
 NO_SUCH_DAY = -1
+OUT_OF_RANGE = -2
 
 
 def answer_day(day):
@@ -39,3 +41,24 @@ def from_week(y, w, wd):
         return [NO_SUCH_DAY]
     # The last week of the last year goes on beyond the last day.
     return answer_day(day_of_week_date(y, w, wd))
+
+
+def move(day, months, rule):
+    if not is_rule(rule) or not is_move(months):
+        return [OUT_OF_RANGE]
+    if not is_day(day):
+        return [NO_SUCH_DAY]
+    if rule == REFUSED and not has_place(day, months):
+        return [NO_SUCH_DAY]
+    return answer_day(moved(day, months, rule))
+
+
+def between(a, b):
+    # The order comes first, whether or not a and b are days.
+    if b < a:
+        return [OUT_OF_RANGE]
+    if not is_day(a) or not is_day(b):
+        return [NO_SUCH_DAY]
+    months = whole_months(a, b)
+    left = b - moved(a, months, LAST_OF_MONTH)
+    return [DONE, months // MONTHS_IN_YEAR, months % MONTHS_IN_YEAR, left]

@@ -4,7 +4,7 @@ import contextlib
 import io
 import unittest
 
-from dayround.desk import civil, day, from_week, week
+from dayround.desk import between, civil, day, from_week, move, week
 
 FIRST = -365961662
 LAST = 364522971
@@ -19,9 +19,15 @@ CALLS = (
     (from_week, (1970, 1, 4)), (from_week, (-2, 53, 7)), (from_week, (-999999, 1, 1)), (from_week, (999999, 52, 5)),
     (from_week, (999999, 52, 6)), (from_week, (2025, 53, 1)), (from_week, (2026, 1, 8)),
     (from_week, (2147483647, 1, -2147483648)),
+    (move, (0, 1, 0)), (move, (20484, 1, 0)), (move, (20484, 1, 1)), (move, (20484, 1, 2)), (move, (-719528, -1, 1)),
+    (move, (FIRST, 23999987, 2)), (move, (FIRST, -1, 0)), (move, (LAST, 24000000, 1)), (move, (LAST + 1, 0, 0)),
+    (move, (0, 24000001, 0)), (move, (FIRST - 1, 0, 3)), (move, (-9223372036854775808, 9223372036854775807, -1)),
+    (between, (0, 0)), (between, (20484, 20512)), (between, (-719529, 20773)), (between, (FIRST, LAST)),
+    (between, (1, 0)), (between, (LAST, FIRST)), (between, (LAST + 1, LAST)), (between, (FIRST - 1, LAST)),
+    (between, (-9223372036854775808, 9223372036854775807)), (between, (9223372036854775807, -9223372036854775808)),
 )
-LENGTHS = {day: 2, civil: 4, week: 4, from_week: 2}
-REFUSALS = {day: (-1,), civil: (-1,), week: (-1,), from_week: (-1,)}
+LENGTHS = {day: 2, civil: 4, week: 4, from_week: 2, move: 2, between: 4}
+REFUSALS = {day: (-1,), civil: (-1,), week: (-1,), from_week: (-1,), move: (-1, -2), between: (-1, -2)}
 
 
 class TheAnswers(unittest.TestCase):
@@ -68,6 +74,8 @@ class TheAnswers(unittest.TestCase):
         self.assertEqual(civil(day=11016), [0, 2000, 2, 29])
         self.assertEqual(week(day=11016), [0, 2000, 9, 2])
         self.assertEqual(from_week(y=2000, w=9, wd=2), [0, 11016])
+        self.assertEqual(move(day=20484, months=1, rule=1), [0, 20513])
+        self.assertEqual(between(a=20484, b=20513), [0, 0, 1, 1])
 
 
 if __name__ == "__main__":

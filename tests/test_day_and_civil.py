@@ -2,18 +2,11 @@ import datetime
 import unittest
 
 from dayround.desk import civil, day
+from plain_calendar import length_of_month
 
 FIRST = -365961662
 LAST = 364522971
 EPOCH = datetime.date(1970, 1, 1).toordinal()
-
-
-def length_of_month(year, month):
-    if month == 2:
-        if year % 400 == 0:
-            return 29
-        return 29 if year % 4 == 0 and year % 100 != 0 else 28
-    return 30 if month in (4, 6, 9, 11) else 31
 
 
 def dates_from(year):

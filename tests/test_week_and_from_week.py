@@ -2,6 +2,7 @@ import datetime
 import unittest
 
 from dayround.desk import civil, day, from_week, week
+from plain_calendar import is_long
 
 FIRST = -365961662
 LAST = 364522971
@@ -33,10 +34,6 @@ TURNS = (
     (2017, "2016-W52-4 2016-W52-5 2016-W52-6 2016-W52-7 2017-W01-1 2017-W01-2 2017-W01-3"),
     (2012, "2011-W52-4 2011-W52-5 2011-W52-6 2011-W52-7 2012-W01-1 2012-W01-2 2012-W01-3"),
 )
-
-
-def is_long(year):
-    return year % 400 == 0 or (year % 4 == 0 and year % 100 != 0)
 
 
 def turns():
