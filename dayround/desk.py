@@ -2,7 +2,9 @@
 
 from dayround.almanac import first_of_month, is_date, is_day, month_of, year_of
 from dayround.months import LAST_OF_MONTH, MONTHS_IN_YEAR, REFUSED, has_place, is_move, is_rule, moved, whole_months
+from dayround.texts import is_form, is_place, signs_of, text_of
 from dayround.weeks import day_of_week, day_of_week_date, is_week_date, week_of_year, year_of_week
+from dayround.workdays import is_list_of_holidays, is_number_of_steps, is_rest, nth_working_day
 
 DONE = 0
 NO_SUCH_DAY = -1
@@ -62,3 +64,20 @@ def between(a, b):
     months = whole_months(a, b)
     left = b - moved(a, months, LAST_OF_MONTH)
     return [DONE, months // MONTHS_IN_YEAR, months % MONTHS_IN_YEAR, left]
+
+
+def work(day, n, rest, holidays):
+    if not is_number_of_steps(n) or not is_rest(rest) or not is_list_of_holidays(holidays):
+        return [OUT_OF_RANGE]
+    if not is_day(day):
+        return [NO_SUCH_DAY]
+    return answer_day(nth_working_day(day, n, rest, holidays))
+
+
+def write(form, day, most):
+    if not is_form(form) or not is_place(most):
+        return [OUT_OF_RANGE]
+    if not is_day(day):
+        return [NO_SUCH_DAY]
+    text = text_of(form, day)
+    return [len(text)] + signs_of(text[:most])

@@ -1,14 +1,8 @@
 import unittest
 
 from dayround.desk import between, civil, day, move
+from bounds import FIRST, HIGHEST_LONG, LAST, LOWEST_LONG, NONE, OUT_OF_RANGE
 from plain_calendar import length_of_month
-
-FIRST = -365961662
-LAST = 364522971
-LOWEST = -9223372036854775808
-HIGHEST = 9223372036854775807
-NONE = [-1]
-OUT_OF_RANGE = [-2]
 
 
 class BetweenCase(unittest.TestCase):
@@ -155,28 +149,28 @@ class WrongInputs(unittest.TestCase):
         self.assertEqual(between(0, FIRST - 1), OUT_OF_RANGE)
         self.assertEqual(between(LAST + 1, LAST), OUT_OF_RANGE)
         self.assertEqual(between(LAST + 1, 0), OUT_OF_RANGE)
-        self.assertEqual(between(HIGHEST, 0), OUT_OF_RANGE)
-        self.assertEqual(between(0, LOWEST), OUT_OF_RANGE)
+        self.assertEqual(between(HIGHEST_LONG, 0), OUT_OF_RANGE)
+        self.assertEqual(between(0, LOWEST_LONG), OUT_OF_RANGE)
 
     def test_b_before_a_where_both_are_none(self):
         self.assertEqual(between(FIRST - 1, FIRST - 2), OUT_OF_RANGE)
         self.assertEqual(between(LAST + 2, LAST + 1), OUT_OF_RANGE)
         self.assertEqual(between(LAST + 1, FIRST - 1), OUT_OF_RANGE)
-        self.assertEqual(between(HIGHEST, LOWEST), OUT_OF_RANGE)
-        self.assertEqual(between(LOWEST + 1, LOWEST), OUT_OF_RANGE)
-        self.assertEqual(between(HIGHEST, HIGHEST - 1), OUT_OF_RANGE)
+        self.assertEqual(between(HIGHEST_LONG, LOWEST_LONG), OUT_OF_RANGE)
+        self.assertEqual(between(LOWEST_LONG + 1, LOWEST_LONG), OUT_OF_RANGE)
+        self.assertEqual(between(HIGHEST_LONG, HIGHEST_LONG - 1), OUT_OF_RANGE)
 
     def test_a_below_first(self):
         for b in (FIRST, FIRST + 1, 0, LAST):
             with self.subTest(b=b):
                 self.assertEqual(between(FIRST - 1, b), NONE)
-                self.assertEqual(between(LOWEST, b), NONE)
+                self.assertEqual(between(LOWEST_LONG, b), NONE)
 
     def test_b_above_last(self):
         for a in (FIRST, 0, LAST - 1, LAST):
             with self.subTest(a=a):
                 self.assertEqual(between(a, LAST + 1), NONE)
-                self.assertEqual(between(a, HIGHEST), NONE)
+                self.assertEqual(between(a, HIGHEST_LONG), NONE)
 
     def test_both_no_days(self):
         self.assertEqual(between(FIRST - 1, LAST + 1), NONE)
@@ -186,11 +180,11 @@ class WrongInputs(unittest.TestCase):
         self.assertEqual(between(LAST + 1, LAST + 2), NONE)
 
     def test_the_ends_of_what_may_be_handed_in(self):
-        self.assertEqual(between(LOWEST, HIGHEST), NONE)
-        self.assertEqual(between(LOWEST, LOWEST), NONE)
-        self.assertEqual(between(HIGHEST, HIGHEST), NONE)
-        self.assertEqual(between(LOWEST, LOWEST + 1), NONE)
-        self.assertEqual(between(HIGHEST - 1, HIGHEST), NONE)
+        self.assertEqual(between(LOWEST_LONG, HIGHEST_LONG), NONE)
+        self.assertEqual(between(LOWEST_LONG, LOWEST_LONG), NONE)
+        self.assertEqual(between(HIGHEST_LONG, HIGHEST_LONG), NONE)
+        self.assertEqual(between(LOWEST_LONG, LOWEST_LONG + 1), NONE)
+        self.assertEqual(between(HIGHEST_LONG - 1, HIGHEST_LONG), NONE)
 
 
 class GoingOnFromA(unittest.TestCase):

@@ -1,12 +1,7 @@
 import unittest
 
 from dayround.desk import civil
-
-FIRST = -365961662
-LAST = 364522971
-LOWEST = -9223372036854775808
-HIGHEST = 9223372036854775807
-NONE = [-1]
+from bounds import FIRST, HIGHEST_LONG, LAST, LOWEST_LONG, NONE
 
 
 class OrdinaryDays(unittest.TestCase):
@@ -96,8 +91,8 @@ class WrongInputs(unittest.TestCase):
                 self.assertEqual(civil(number), NONE)
 
     def test_the_ends_of_what_may_be_handed_in(self):
-        self.assertEqual(civil(LOWEST), NONE)
-        self.assertEqual(civil(HIGHEST), NONE)
+        self.assertEqual(civil(LOWEST_LONG), NONE)
+        self.assertEqual(civil(HIGHEST_LONG), NONE)
 
 
 if __name__ == "__main__":

@@ -1,12 +1,7 @@
 import unittest
 
 from dayround.desk import day
-
-FIRST = -365961662
-LAST = 364522971
-LOWEST = -2147483648
-HIGHEST = 2147483647
-NONE = [-1]
+from bounds import FIRST, HIGHEST, LAST, LOWEST, NONE
 
 # Multiples of 4, of 100 and of 400, the year 0 and years before it among them.
 LONG_YEARS = (2024, 2000, 1972, 1600, 4, 0, -4, -8, -96, -104, -400, -2000, 999996, -999996, 400000, -400000)

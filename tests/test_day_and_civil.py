@@ -2,10 +2,9 @@ import datetime
 import unittest
 
 from dayround.desk import civil, day
+from bounds import FIRST, LAST
 from plain_calendar import length_of_month
 
-FIRST = -365961662
-LAST = 364522971
 EPOCH = datetime.date(1970, 1, 1).toordinal()
 
 

@@ -1,12 +1,7 @@
 import unittest
 
 from dayround.desk import from_week
-
-FIRST = -365961662
-LAST = 364522971
-LOWEST = -2147483648
-HIGHEST = 2147483647
-NONE = [-1]
+from bounds import FIRST, HIGHEST, LAST, LOWEST, NONE
 
 # Years that begin with a 4, and long ones that begin with a 3; years before the year 0 among them.
 YEARS_OF_53 = (1970, 1976, 2004, 2009, 2015, 2020, 2026, 2032, 4, -2, -8, -380, -774, -999980)

@@ -1,12 +1,7 @@
 import unittest
 
 from dayround.desk import week
-
-FIRST = -365961662
-LAST = 364522971
-LOWEST = -9223372036854775808
-HIGHEST = 9223372036854775807
-NONE = [-1]
+from bounds import FIRST, HIGHEST_LONG, LAST, LOWEST_LONG, NONE
 
 
 class OrdinaryDays(unittest.TestCase):
@@ -86,8 +81,8 @@ class WrongInputs(unittest.TestCase):
                 self.assertEqual(week(number), NONE)
 
     def test_the_ends_of_what_may_be_handed_in(self):
-        self.assertEqual(week(LOWEST), NONE)
-        self.assertEqual(week(HIGHEST), NONE)
+        self.assertEqual(week(LOWEST_LONG), NONE)
+        self.assertEqual(week(HIGHEST_LONG), NONE)
 
 
 if __name__ == "__main__":

@@ -2,10 +2,9 @@ import datetime
 import unittest
 
 from dayround.desk import civil, day, from_week, week
+from bounds import FIRST, LAST
 from plain_calendar import is_long
 
-FIRST = -365961662
-LAST = 364522971
 EPOCH = datetime.date(1970, 1, 1).toordinal()
 
 # A year, and the week and day of the week of each day from 29 December before it to 4 January in it.
