@@ -1,8 +1,10 @@
 """The calls: each takes its arguments and gives back a list of whole numbers, a refusal's number alone."""
 
-from dayround.almanac import first_of_month, is_date, is_day, month_of, year_of
+from dayround.almanac import LAST, first_of_month, is_date, is_day, month_of, year_of
 from dayround.months import LAST_OF_MONTH, MONTHS_IN_YEAR, REFUSED, has_place, is_move, is_rule, moved, whole_months
-from dayround.texts import is_form, is_place, signs_of, text_of
+from dayround.reading import day_told, is_written
+from dayround.rounds import Round, days_given, is_round, is_window
+from dayround.texts import BY_MONTH, BY_WEEK, BY_YEAR, is_form, is_number_of_signs, signs_of, text_of
 from dayround.weeks import day_of_week, day_of_week_date, is_week_date, week_of_year, year_of_week
 from dayround.workdays import is_list_of_holidays, is_number_of_steps, is_rest, nth_working_day
 
@@ -75,9 +77,27 @@ def work(day, n, rest, holidays):
 
 
 def write(form, day, most):
-    if not is_form(form) or not is_place(most):
+    if not is_form(form) or not is_number_of_signs(most):
         return [OUT_OF_RANGE]
     if not is_day(day):
         return [NO_SUCH_DAY]
     text = text_of(form, day)
     return [len(text)] + signs_of(text[:most])
+
+
+def read(text):
+    if not is_number_of_signs(len(text)):
+        return [OUT_OF_RANGE]
+    for form in (BY_MONTH, BY_WEEK, BY_YEAR):
+        told = day_told(form, text)
+        if is_written(form, told, text):
+            return [DONE, told]
+    return [NO_SUCH_DAY]
+
+
+def again(start, unit, step, nth, wday, count, months, wdays, flags, until, the_from, most):
+    rule = Round(start, unit, step, nth, wday, count, months, wdays)
+    if not is_round(rule) or not is_window(flags, until, the_from, most):
+        return [OUT_OF_RANGE]
+    days = days_given(rule, until if flags == 1 else LAST, the_from, most)
+    return [len(days)] + days

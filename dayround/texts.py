@@ -15,8 +15,8 @@ def is_form(form):
     return form >= BY_MONTH and form <= BY_YEAR
 
 
-def is_place(most):
-    return most >= 0 and most <= MOST_SIGNS
+def is_number_of_signs(number):
+    return number >= 0 and number <= MOST_SIGNS
 
 
 def digits_of(number, digits):

@@ -2,10 +2,11 @@
 
 import contextlib
 import copy
+import inspect
 import io
 import unittest
 
-from dayround.desk import between, civil, day, from_week, move, week, work, write
+from dayround.desk import again, between, civil, day, from_week, move, read, week, work, write
 from bounds import FIRST, HIGHEST, HIGHEST_LONG, LAST, LOWEST, LOWEST_LONG
 
 CALLS = (
@@ -31,11 +32,23 @@ CALLS = (
     (write, (0, 20773, 32)), (write, (1, 20773, 5)), (write, (2, -719529, 0)), (write, (0, FIRST, 32)),
     (write, (1, LAST, 32)), (write, (2, LAST + 1, 32)), (write, (3, 0, 32)), (write, (0, 0, 33)),
     (write, (LOWEST, HIGHEST_LONG, HIGHEST)),
+    (read, ([50, 48, 50, 54, 45, 49, 49, 45, 49, 54],)), (read, ([50, 48, 50, 54, 45, 87, 52, 55, 45, 49],)),
+    (read, ([45, 48, 48, 48, 49, 45, 51, 54, 53],)), (read, ([],)), (read, ([50, 48, 50, 54, 45, 51, 54, 54],)),
+    (read, ([0] * 32,)), (read, ([255] * 32,)), (read, ([48] * 33,)),
+    (again, (20773, 0, 1, 0, 1, 0, 0, 0, 1, 20780, 20773, 4096)), (again, (20773, 1, 2, 0, 1, 0, 0, 5, 1, 40773, 0, 9)),
+    (again, (20484, 2, 1, 0, 1, 5, 0, 0, 1, 30000, 20600, 9)), (again, (0, 3, 2, -1, 5, 0, 2064, 0, 1, 20000, 0, 4096)),
+    (again, (FIRST, 0, 1000, 0, 1, 0, 0, 0, 1, FIRST, FIRST, 1)),
+    (again, (LAST, 3, 1, 0, 1, 0, 0, 0, 1, LAST, LAST, 1)),
+    (again, (0, 0, 1, 0, 1, 0, 0, 0, 1, -1, 0, 4096)), (again, (0, 0, 1, 0, 1, 0, 0, 0, 1, 20000, 0, 0)),
+    (again, (0, 4, 1, 0, 1, 0, 0, 0, 1, 10, 0, 9)), (again, (0, 0, 1, 0, 1, 0, 0, 0, 2, 10, 0, 9)),
+    (again, (
+        LOWEST_LONG, LOWEST, HIGHEST, LOWEST, HIGHEST, LOWEST, 65535, 255, 255, HIGHEST_LONG, LOWEST_LONG, HIGHEST,
+    )),
 )
-LENGTHS = {day: 2, civil: 4, week: 4, from_week: 2, move: 2, between: 4, work: 2}
+LENGTHS = {day: 2, civil: 4, week: 4, from_week: 2, move: 2, between: 4, work: 2, read: 2}
 REFUSALS = {
     day: (-1,), civil: (-1,), week: (-1,), from_week: (-1,), move: (-1, -2), between: (-1, -2), work: (-1, -2),
-    write: (-1, -2),
+    write: (-1, -2), read: (-1, -2), again: (-2,),
 }
 
 
@@ -51,6 +64,8 @@ class FixedList(list):
 def told_length(function, arguments, answer):
     if function is write:
         return 1 + min(answer[0], arguments[2])
+    if function is again:
+        return 1 + answer[0]
     return LENGTHS[function]
 
 
@@ -66,7 +81,7 @@ class TheAnswers(unittest.TestCase):
                     self.assertIn(answer[0], REFUSALS[function])
                 else:
                     self.assertEqual(len(answer), told_length(function, arguments, answer))
-                    self.assertEqual(answer[0] == 0, function in LENGTHS)
+                    self.assertTrue(answer[0] == 0 or function not in LENGTHS)
 
     def test_the_same_call_twice_answers_the_same(self):
         for function, arguments in CALLS:
@@ -116,6 +131,21 @@ class TheAnswers(unittest.TestCase):
         self.assertEqual(between(a=20484, b=20513), [0, 0, 1, 1])
         self.assertEqual(work(day=20773, n=5, rest=96, holidays=[20775]), [0, 20781])
         self.assertEqual(write(form=2, day=20773, most=4), [8, 50, 48, 50, 54])
+        self.assertEqual(read(text=[50, 48, 50, 54, 45, 51, 50, 48]), [0, 20773])
+        self.assertEqual(
+            again(start=20773, unit=1, step=2, nth=0, wday=1, count=4, months=0, wdays=3, flags=1, until=20900,
+                  the_from=20774, most=2),
+            [2, 20774, 20787],
+        )
+
+    def test_arguments_stand_in_the_order_of_the_interface(self):
+        for function, names in (
+            (day, "y m d"), (civil, "day"), (week, "day"), (from_week, "y w wd"), (move, "day months rule"),
+            (between, "a b"), (work, "day n rest holidays"), (write, "form day most"), (read, "text"),
+            (again, "start unit step nth wday count months wdays flags until the_from most"),
+        ):
+            with self.subTest(function=function.__name__):
+                self.assertEqual(list(inspect.signature(function).parameters), names.split())
 
 
 if __name__ == "__main__":

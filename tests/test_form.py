@@ -23,12 +23,97 @@ BARRED_NODES = (
     ast.AsyncFunctionDef, ast.AsyncFor, ast.AsyncWith, ast.SetComp, ast.DictComp, ast.GeneratorExp, ast.NamedExpr,
     ast.Starred, ast.Div, ast.Import,
 )
+OWN_METHODS = {"__init__"}
+PYTHONS_METHODS = set(
+    "append clear copy count endswith extend find get index insert isalnum isalpha isdigit islower isspace isupper "
+    "items join keys ljust lower lstrip partition pop remove replace reverse rfind rjust rpartition rsplit rstrip "
+    "setdefault split splitlines startswith strip update upper values zfill bit_length".split()
+)
+
+
+def trees():
+    for path in FILES:
+        yield path.name, ast.parse(path.read_text(encoding="utf-8"))
+
+
+def bound_at_the_top(tree):
+    for node in tree.body:
+        if isinstance(node, (ast.FunctionDef, ast.ClassDef)):
+            yield node.name
+        elif isinstance(node, ast.Assign):
+            yield node.targets[0].id
+
+
+def imported(tree):
+    for node in tree.body:
+        if isinstance(node, ast.ImportFrom):
+            for alias in node.names:
+                yield node.module.split(".", 1)[1] + ".py", alias.name, alias.asname
 
 
 def nodes():
     for path in FILES:
         for node in ast.walk(ast.parse(path.read_text(encoding="utf-8"))):
             yield path.name, node
+
+
+class TheTopOfAFile(unittest.TestCase):
+    def test_only_what_may_stand_there(self):
+        for name, tree in trees():
+            for node in tree.body[1:]:
+                with self.subTest(file=name, line=node.lineno):
+                    self.assertIsInstance(node, (ast.ImportFrom, ast.FunctionDef, ast.ClassDef, ast.Assign))
+                    if isinstance(node, ast.Assign):
+                        self.assertIsInstance(node.targets[0], ast.Name)
+                        self.assertNotIsInstance(ast.literal_eval(node.value), (float, bytes, set))
+
+    def test_a_docstring_first(self):
+        for name, tree in trees():
+            self.assertTrue(ast.get_docstring(tree), name)
+
+    def test_each_name_is_bound_once(self):
+        for name, tree in trees():
+            names = list(bound_at_the_top(tree)) + [one for file, one, other in imported(tree)]
+            self.assertEqual(len(names), len(set(names)), name)
+
+    def test_names_are_drawn_from_the_file_that_defines_them(self):
+        defined = {name: set(bound_at_the_top(tree)) for name, tree in trees()}
+        for name, tree in trees():
+            for file, one, other in imported(tree):
+                self.assertIn(one, defined[file], name)
+                self.assertIsNone(other, name)
+
+    def test_no_two_files_draw_from_one_another(self):
+        drawn = {name: {file for file, one, other in imported(tree)} for name, tree in trees()}
+        while drawn:
+            free = [name for name, files in drawn.items() if not files & set(drawn)]
+            self.assertTrue(free, drawn)
+            for name in free:
+                del drawn[name]
+
+
+class Names(unittest.TestCase):
+    def test_no_parameter_or_local_hides_another_name(self):
+        for name, tree in trees():
+            barred = {one for file, one, other in imported(tree)} | set(dir(builtins))
+            barred |= {node.name for node in tree.body if isinstance(node, ast.ClassDef)}
+            for node in ast.walk(tree):
+                if isinstance(node, ast.arg):
+                    self.assertNotIn(node.arg, barred, name)
+                if isinstance(node, ast.Name) and isinstance(node.ctx, ast.Store):
+                    self.assertNotIn(node.id, barred, name)
+
+    def test_functions_and_classes_have_names_of_their_own(self):
+        for name, node in nodes():
+            if isinstance(node, (ast.FunctionDef, ast.ClassDef)) and node.name not in OWN_METHODS:
+                self.assertRegex(node.name, r"^[A-Za-z][A-Za-z0-9_]*$", name)
+                self.assertFalse(hasattr(builtins, node.name), node.name)
+
+    def test_methods_are_those_of_the_rules(self):
+        for name, node in nodes():
+            if isinstance(node, ast.Call) and isinstance(node.func, ast.Attribute):
+                with self.subTest(file=name, line=node.lineno):
+                    self.assertIn(node.func.attr, PYTHONS_METHODS)
 
 
 class Form(unittest.TestCase):
@@ -70,6 +155,9 @@ class Form(unittest.TestCase):
                 self.assertNotIsInstance(node, BARRED_NODES)
                 if isinstance(node, ast.Constant):
                     self.assertNotIsInstance(node.value, (float, bytes, complex))
+                    self.assertNotIn("%", str(node.value))
+                if isinstance(node, (ast.For, ast.While)):
+                    self.assertEqual(node.orelse, [])
                 if isinstance(node, ast.Assign):
                     self.assertEqual(len(node.targets), 1)
 
